@@ -18,6 +18,7 @@ const (
 // Object is a *Blob, a *Tree or a *Commit.
 type Object interface {
 	ID() string
+	Text() string
 	// read takes the object's text apart; false, if it is not of the kind's form.
 	read() bool
 }
@@ -27,6 +28,9 @@ type common struct{ id, text string }
 
 // ID gives the id of the whole text.
 func (c *common) ID() string { return c.id }
+
+// Text gives the whole text.
+func (c *common) Text() string { return c.text }
 
 // body gives what stands behind the kind's word and its blank.
 func (c *common) body() string {

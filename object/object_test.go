@@ -15,7 +15,7 @@ func TestKinds(t *testing.T) {
 		t.Errorf("a commit: %v, %v", commit, ok)
 	}
 	blob, ok := Parse("blob hello")
-	if _, is := blob.(*Blob); !ok || !is || blob.ID() != "85676ebe" {
+	if _, is := blob.(*Blob); !ok || !is || blob.ID() != "85676ebe" || blob.Text() != "blob hello" {
 		t.Errorf("a blob: %v, %v", blob, ok)
 	}
 	if none, ok := Parse("blob"); none != nil || ok {

@@ -1,7 +1,10 @@
 // Package push reads a push from the bytes of a connection, one packet at a time.
 package push
 
-import "refserve/object"
+import (
+	"refserve/object"
+	"refserve/order"
+)
 
 const (
 	mostInput    = 600
@@ -50,6 +53,9 @@ func (p *Push) End() { p.ended = true }
 
 // Whole says whether the second flush has been read.
 func (p *Push) Whole() bool { return p.part == behindAll }
+
+// Refs gives the refs that the commands speak of, by their names, rising.
+func (p *Push) Refs() []string { return order.Keys(p.refs) }
 
 // Read takes one packet: a *Fault tells that this is no push, ErrWait that the packet is not there yet.
 func (p *Push) Read() error {

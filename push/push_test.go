@@ -27,6 +27,9 @@ func TestWholePush(t *testing.T) {
 	if len(p.Commands) != 2 || p.Commands[0] != (Command{"00000000", "12345678", "refs/b"}) || p.Commands[1] != (Command{"9abcdef0", "00000000", "refs/a"}) {
 		t.Errorf("P4: the commands: %v", p.Commands)
 	}
+	if refs := strings.Join(p.Refs(), " "); refs != "refs/a refs/b" {
+		t.Errorf("P4: the refs in the order of their names: %s", refs)
+	}
 	var ids []string
 	for _, o := range p.Objects {
 		ids = append(ids, o.ID())

@@ -80,16 +80,23 @@ func TestAnswersAreTheSame(t *testing.T) {
 	}
 }
 
-// drive pushes by one connection and tells all its answers.
+// drive pushes by one connection, to its end, and tells all its answers.
 func drive(s *Server, c int, in string) string {
 	var told strings.Builder
 	for i := range len(in) {
 		fmt.Fprint(&told, s.Feed(c, in[i:i+1]), s.Step(c))
 	}
-	fmt.Fprint(&told, s.End(c), s.Step(c))
+	fmt.Fprint(&told, s.End(c), steps(s, c))
 	reply, ok := s.Reply(c)
 	fmt.Fprint(&told, reply, ok)
 	return told.String()
+}
+
+// ownPush makes a push whose answers don't hang on what others push: its refs and its commit are its own.
+func ownPush(c int) string {
+	name := string(rune('a' + c))
+	one := commitOf(name, emptyTree)
+	return pushOf(create(one, "refs/"+name)+","+turn(one, one, "refs/"+name+name), one, emptyTree)
 }
 
 func TestManyDrivers(t *testing.T) {
@@ -97,7 +104,10 @@ func TestManyDrivers(t *testing.T) {
 	next := numbers(7)
 	alone := New(false, 9)
 	for c := range inputs {
-		inputs[c] = anyInput(next)
+		inputs[c] = ownPush(c)
+		if c%4 == 3 {
+			inputs[c] = anyInput(next) + "x"
+		}
 		alone.Open()
 		want[c] = drive(alone, c, inputs[c])
 	}

@@ -9,13 +9,16 @@ import (
 func Example() {
 	s := serve.New(true, 40)
 	c := s.Open()
-	s.Feed(c, serve.Packet("00000000 12345678 refs/m")+"0000")
-	s.Feed(c, serve.Packet("blob a"))
-	s.End(c)
+	tree := "tree "
+	commit := "commit " + serve.ID(tree) + " - first"
+	s.Feed(c, serve.Packet("00000000 "+serve.ID(commit)+" refs/m")+"0000")
+	s.Feed(c, serve.Packet(tree)+serve.Packet(commit)+"0000")
 	for s.Step(c) == 1 {
 	}
-	fmt.Println(s.Reply(c))
+	reply, ok := s.Reply(c)
+	fmt.Print(reply, ok)
 	s.Stop()
-	// Output: unpack packet
-	//  true
+	// Output: unpack ok
+	// ok refs/m
+	// true
 }

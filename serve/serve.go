@@ -5,14 +5,16 @@ import (
 	"strings"
 	"sync"
 
+	"refserve/locks"
 	"refserve/object"
 	"refserve/push"
+	"refserve/store"
 )
 
 const mostConnections = 8
 
 // Ref is a name and the id of a commit.
-type Ref struct{ Name, ID string }
+type Ref = store.Ref
 
 // ID gives the id of a text.
 func ID(text string) string { return object.ID(text) }
@@ -32,8 +34,8 @@ func Look(text string) ([]string, bool) {
 
 // Server has a store, refs, connections.
 type Server struct {
-	forward bool
-	room    int
+	store store.Store
+	locks locks.Locks
 
 	mutex       sync.Mutex // for what is below
 	connections []*connection
@@ -42,7 +44,7 @@ type Server struct {
 
 // New gives a server without objects, refs, connections, whose store holds at most room objects.
 func New(forward bool, room int) *Server {
-	return &Server{forward: forward, room: max(room, 0)}
+	return &Server{store: store.Store{Forward: forward, Room: room}}
 }
 
 // Open gives the number of a new connection; -1, if there have been as many as there may be.
@@ -55,8 +57,9 @@ func (s *Server) Open() int {
 	if s.stopped || len(s.connections) == mostConnections {
 		return -1
 	}
-	s.connections = append(s.connections, startConnection())
-	return len(s.connections) - 1
+	number := len(s.connections)
+	s.connections = append(s.connections, startConnection(number, &s.store, &s.locks))
+	return number
 }
 
 // find gives the connection of that number; false, if there is none.
@@ -125,7 +128,12 @@ func (s *Server) Stop() {
 	s.mutex.Lock()
 	defer s.mutex.Unlock()
 	s.stopped = true
+	// All are held first: none may take a lock that another one gives back by being dropped.
 	for _, c := range s.connections {
-		c.drop()
+		c.mutex.Lock()
+		defer c.mutex.Unlock()
+	}
+	for _, c := range s.connections {
+		c.cutOff()
 	}
 }
