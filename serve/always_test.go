@@ -41,13 +41,19 @@ func TestPiecesDoNotMatter(t *testing.T) {
 	}
 }
 
+// anyID gives an id, or what is nearly one.
+func anyID(next func(int) int) string {
+	ids := []string{ID("blob a"), ID("tree "), ID("commit 12345678 - m"), "12345678", nothing, "", "x"}
+	return ids[next(len(ids))]
+}
+
 // anyCalls asks a server for many things and tells what it answered.
 func anyCalls(s *Server, seed uint32) string {
 	next := numbers(seed)
 	var told strings.Builder
 	for range 60 {
 		c := next(11) - 1
-		switch next(9) {
+		switch next(11) {
 		case 0:
 			fmt.Fprint(&told, s.Open())
 		case 1, 2:
@@ -60,6 +66,13 @@ func anyCalls(s *Server, seed uint32) string {
 			fmt.Fprint(&told, s.Drop(c))
 		case 8:
 			fmt.Fprint(&told, s.Refs(), ID(anyInput(next)))
+		case 9:
+			text, ok := s.Object(anyID(next))
+			fmt.Fprint(&told, text, ok)
+		case 10:
+			for id := range s.Reach(anyID(next)) {
+				fmt.Fprint(&told, id, s.Refs())
+			}
 		}
 		fmt.Fprintln(&told)
 	}
@@ -175,16 +188,5 @@ func TestLongTexts(t *testing.T) {
 				t.Errorf("P2: Look at %q and a long text of %q: %d ids", head, part, len(ids))
 			}
 		}
-	}
-}
-
-func TestReachCanBeRanged(t *testing.T) {
-	s := New(false, 9)
-	defer s.Stop()
-	for range s.Reach("00000000") {
-		t.Errorf("P1: something can be reached from nothing")
-	}
-	for range s.Reach("?") {
-		break
 	}
 }

@@ -16,9 +16,18 @@ func Example() {
 	for s.Step(c) == 1 {
 	}
 	reply, ok := s.Reply(c)
-	fmt.Print(reply, ok)
+	fmt.Println(reply, ok)
+	for _, ref := range s.Refs() {
+		fmt.Println(ref.Name, ref.ID)
+		for id := range s.Reach(ref.ID) {
+			fmt.Println(s.Object(id))
+		}
+	}
 	s.Stop()
 	// Output: unpack ok
 	// ok refs/m
-	// true
+	//  true
+	// refs/m b8aabf4a
+	// commit 67245daf - first true
+	// tree  true
 }

@@ -112,6 +112,9 @@ func (m *model) decide(p *modelPush) string {
 		default:
 			reply += "ok " + ref + "\n"
 			m.refs[ref] = id
+			if id == nothing {
+				delete(m.refs, ref)
+			}
 		}
 	}
 	return reply
@@ -182,6 +185,39 @@ func closure(id string, next func(string) []string) map[string]bool {
 	return found
 }
 
+// reach gives an id and all that can be reached from it, in order.
+func (m *model) reach(id string) []string {
+	if id == nothing {
+		return nil
+	}
+	ids := []string{id}
+	for i := 0; i < len(ids); i++ {
+		named, _ := Look(m.objects[ids[i]])
+		for _, id := range named {
+			if !slices.Contains(ids, id) {
+				ids = append(ids, id)
+			}
+		}
+	}
+	return ids
+}
+
+// wantThere tells if a server says anything else than the model about what is there.
+func (m *model) wantThere(t *testing.T, s *Server, id string) {
+	t.Helper()
+	want := make([]Ref, 0, len(m.refs))
+	for _, name := range slices.Sorted(maps.Keys(m.refs)) {
+		want = append(want, Ref{Name: name, ID: m.refs[name]})
+	}
+	if got := s.Refs(); !slices.Equal(got, want) {
+		t.Fatalf("P9: Refs() = %v, want %v", got, want)
+	}
+	if text, ok := s.Object(id); text != m.objects[id] || ok != (text != "") {
+		t.Fatalf("P9: Object(%s) = %q, %v, want %q", id, text, ok, m.objects[id])
+	}
+	wantTold(t, "as the model says", s.Reach(id), m.reach(id))
+}
+
 // world gives objects of all kinds that name each other, some of them wrongly.
 func world() []string {
 	blobTree := treeOf(helloBlob)
@@ -250,6 +286,7 @@ func follow(t *testing.T, seed uint32, told map[string]int) {
 	for m.step(0) == 1 {
 		s.Step(0)
 	}
+	asked := append(idsOf(world()...), nothing, "12345678")
 	for range 300 {
 		if len(m.pushes) < 8 && next(6) == 0 {
 			begin(m.anyPush(next))
@@ -267,6 +304,13 @@ func follow(t *testing.T, seed uint32, told map[string]int) {
 		if got, ok := s.Reply(c); got != want || ok != finished {
 			t.Fatalf("P6: %d: Reply(%d) = %q, %v, want %q, %v", seed, c, got, ok, want, finished)
 		}
+		if next(4) == 0 {
+			m.wantThere(t, s, asked[next(len(asked))])
+		}
+	}
+	s.Stop()
+	for _, id := range asked {
+		m.wantThere(t, s, id)
 	}
 	for c := range m.pushes {
 		reply, _ := m.tell(c)

@@ -111,13 +111,21 @@ func (s *Server) Reply(c int) (string, bool) {
 	return found.tell()
 }
 
-// Refs, Object and Reach tell what is there; as yet, that is nothing.
-func (s *Server) Refs() []Ref { return nil }
+// Refs gives all refs by their names, rising.
+func (s *Server) Refs() []Ref { return s.there().Refs() }
 
-func (s *Server) Object(id string) (string, bool) { return "", false }
+// Object gives the text of an object in the store; false, if it is not there.
+func (s *Server) Object(id string) (string, bool) { return s.there().Object(id) }
 
-func (s *Server) Reach(id string) func(yield func(id string) bool) {
-	return func(func(string) bool) {}
+// Reach is to be ranged over: it tells the id and all that can be reached from it, in the store as it is when the loop begins.
+func (s *Server) Reach(id string) func(yield func(id string) bool) { return s.there().Reach(id) }
+
+// there gives the store; an empty one, if there is no server.
+func (s *Server) there() *store.Store {
+	if s == nil {
+		return &store.Store{}
+	}
+	return &s.store
 }
 
 // Stop drops all connections that have not finished: behind it no goroutine is left, and none is started.

@@ -77,6 +77,14 @@ func wantHeld(t *testing.T, s *Store, texts []string, refs ...Ref) {
 	if !maps.Equal(s.refs, there) {
 		t.Errorf("P6: the refs: %v, want %v", s.refs, there)
 	}
+	if told := s.Refs(); !slices.Equal(told, refs) {
+		t.Errorf("P9: the refs: %v, want %v", told, refs)
+	}
+	for _, text := range texts {
+		if told, ok := s.Object(object.ID(text)); told != text || !ok {
+			t.Errorf("P9: the object of %q: %q, %v", text, told, ok)
+		}
+	}
 }
 
 func TestTakenOrNothingChanges(t *testing.T) {
@@ -164,5 +172,22 @@ func TestWalk(t *testing.T) {
 	}
 	if count != 3 {
 		t.Errorf("a loop that is left goes on: %d", count)
+	}
+}
+
+func TestReachNeedsNoLock(t *testing.T) {
+	son := commitOf(empty, object.ID(ringCommit), "")
+	s := &Store{Room: 9}
+	wantWords(t, s.Take(whole(t, []string{"00000000 " + object.ID(son) + " refs/a"}, son, ringCommit, empty)), "ok")
+	var got []string
+	for id := range s.Reach(object.ID(son)) {
+		if !s.mutex.TryLock() {
+			t.Fatalf("P9: the store is locked within a loop")
+		}
+		s.mutex.Unlock()
+		got = append(got, id)
+	}
+	if want := []string{object.ID(son), object.ID(empty), object.ID(ringCommit)}; !slices.Equal(got, want) {
+		t.Errorf("P9: %q, want %q", got, want)
 	}
 }
